@@ -14,7 +14,7 @@ func (a Dyad) Round(p, dir int) Dyad {
 		return Make(a.Man, a.Exp)
 	}
 	exact := nat.Low(a.Man.Mag) >= cut
-	return direct(a.Man.Floor(cut), a.Exp+cut, exact, dir)
+	return direct(shorten(a.Man, cut), a.Exp+cut, exact, dir)
 }
 
 // Quo returns the quotient of a and b rounded as by Round, and true, or 0 and false if b is 0.
@@ -66,4 +66,13 @@ func lengthen(a whole.Int, n int) whole.Int {
 		a = a.Shl(api.MaxBits)
 	}
 	return a.Shl(max(n, 0))
+}
+
+// shorten returns a divided by 2^n and rounded down. Exact sums and products may have more bits than one
+// shift can take away.
+func shorten(a whole.Int, n int) whole.Int {
+	for ; n > api.MaxBits; n -= api.MaxBits {
+		a = a.Floor(api.MaxBits)
+	}
+	return a.Floor(n)
 }

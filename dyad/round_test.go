@@ -225,6 +225,12 @@ func TestP302LongestMan(t *testing.T) {
 	is(t, "down", longest.Round(3, api.Down), whole.Of(7), api.MaxBits-2)
 	is(t, "up", longest.Round(3, api.Up), whole.Of(1), api.MaxBits+1)
 	is(t, "down to one bit", longest.Not().Round(0, api.Down), whole.Of(-1), api.MaxBits+1)
+	// Sums of numbers in range may have even more bits.
+	sum := longest.Add(num(1, -dyad.MaxExp))
+	is(t, "sum down", sum.Round(3, api.Down), whole.Of(7), api.MaxBits-2)
+	is(t, "sum up", sum.Round(3, api.Up), whole.Of(1), api.MaxBits+1)
+	is(t, "negative sum down", sum.Not().Round(3, api.Down), whole.Of(-1), api.MaxBits+1)
+	is(t, "negative sum up", sum.Not().Round(3, api.Up), whole.Of(-7), api.MaxBits-2)
 	for _, c := range []struct {
 		a, b            dyad.Dyad
 		p, dir, man, at int
