@@ -152,16 +152,19 @@ func longBytes(r *rand.Rand, n int) string {
 }
 
 func TestP802ReadAnyBytes(t *testing.T) {
+	check := func(s string) {
+		sameNodes(t, fmt.Sprintf("Read of %q", s), code.Read(s), nodesOf(s))
+	}
+	check("")
 	for a := range 256 {
+		check(string([]byte{byte(a)}))
 		for b := range 256 {
-			s := string([]byte{byte(a), byte(b)})
-			sameNodes(t, fmt.Sprintf("Read of %q", s), code.Read(s), nodesOf(s))
+			check(string([]byte{byte(a), byte(b)}))
 		}
 	}
 	r := rand.New(rand.NewSource(1))
 	for n := range 300 {
-		s := longBytes(r, n)
-		sameNodes(t, fmt.Sprintf("Read of %q", s), code.Read(s), nodesOf(s))
+		check(longBytes(r, n))
 	}
 }
 
